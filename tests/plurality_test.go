@@ -388,6 +388,19 @@ func checkParts(t *testing.T, list []impl.Pile, first []impl.Pile, other []impl.
 	}
 }
 
+// inTurn puts piles into two parts in turn.
+func inTurn(list []impl.Pile) ([]impl.Pile, []impl.Pile) {
+	even, odd := []impl.Pile{}, []impl.Pile{}
+	for i, p := range list {
+		if i%2 == 0 {
+			even = append(even, p)
+		} else {
+			odd = append(odd, p)
+		}
+	}
+	return even, odd
+}
+
 func TestPromise40CountsOfBothParts(t *testing.T) {
 	eachFit(func(list []impl.Pile, n int) {
 		left := make([]bool, n)
@@ -396,14 +409,7 @@ func TestPromise40CountsOfBothParts(t *testing.T) {
 			checkParts(t, list, list[:k], list[k:], make([]bool, n))
 			checkParts(t, list, list[:k], list[k:], left)
 		}
-		even, odd := []impl.Pile{}, []impl.Pile{}
-		for i, p := range list {
-			if i%2 == 0 {
-				even = append(even, p)
-			} else {
-				odd = append(odd, p)
-			}
-		}
+		even, odd := inTurn(list)
 		checkParts(t, list, even, odd, left)
 	})
 }
